@@ -1,0 +1,1 @@
+"""Rows of bytes with marks that mend them."""

@@ -1,0 +1,37 @@
+"""The field of bytes: how bytes are added, doubled and multiplied."""
+
+REFUSED = -2
+LARGEST_BYTE = 255
+# Its top bit takes away the bit that a doubling moves past 255.
+FOLD = 0x11D
+
+
+def is_byte(number):
+    return 0 <= number and number <= LARGEST_BYTE
+
+
+def twice(byte):
+    moved = byte << 1
+    if moved > LARGEST_BYTE:
+        return moved ^ FOLD
+    return moved
+
+
+def product(a, b):
+    """The product of two numbers that are known to be bytes."""
+    total = 0
+    doubled = a
+    bits_left = b
+    while bits_left > 0:
+        if bits_left & 1 == 1:
+            total = total ^ doubled
+        doubled = twice(doubled)
+        bits_left = bits_left >> 1
+    return total
+
+
+def mul(a, b):
+    """The product of a and b as a list of one number, or [-2] where one of them is not a byte."""
+    if not is_byte(a) or not is_byte(b):
+        return [REFUSED]
+    return [product(a, b)]
