@@ -1,9 +1,11 @@
-"""The field of bytes: how bytes are added, doubled and multiplied."""
+"""The field of bytes: how bytes are added, doubled, multiplied and divided."""
 
 REFUSED = -2
 LARGEST_BYTE = 255
 # Its top bit takes away the bit that a doubling moves past 255.
 FOLD = 0x11D
+# Every byte but 0 is 1 at the power 255, so at this power it is the byte that it makes 1 with.
+INVERTING_POWER = 254
 
 
 def is_byte(number):
@@ -30,8 +32,28 @@ def product(a, b):
     return total
 
 
+def raised(byte, exponent):
+    """A byte to a power from 0 on, by squaring: few steps where the exponent is large."""
+    total = 1
+    squared = byte
+    bits_left = exponent
+    while bits_left > 0:
+        if bits_left & 1 == 1:
+            total = product(total, squared)
+        squared = product(squared, squared)
+        bits_left = bits_left >> 1
+    return total
+
+
 def mul(a, b):
     """The product of a and b as a list of one number, or [-2] where one of them is not a byte."""
     if not is_byte(a) or not is_byte(b):
         return [REFUSED]
     return [product(a, b)]
+
+
+def div(a, b):
+    """The byte whose product with b is a, as a list of one number, or [-2] where one is not a byte or b is 0."""
+    if not is_byte(a) or not is_byte(b) or b == 0:
+        return [REFUSED]
+    return [product(a, raised(b, INVERTING_POWER))]

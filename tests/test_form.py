@@ -1,11 +1,15 @@
 """What the package's files hold: the promises that no answer of a call can show."""
 
 import ast
+import inspect
 import pathlib
 import re
 import unittest
 
+from mendmarks import bytefield
+
 PACKAGE = pathlib.Path(__file__).resolve().parent.parent / "mendmarks"
+PARAMETERS = {"mul": ["a", "b"], "div": ["a", "b"]}
 OUTSIDE_NAMES = ("print", "open", "input", "eval", "exec", "compile", "globals", "sys", "os")
 
 
@@ -25,6 +29,11 @@ class Form(unittest.TestCase):
         for name in names:
             self.assertRegex(name, r"^[a-z0-9_]+\.py$")
 
+    def test_the_calls_and_their_parameters(self):
+        for name, wanted in PARAMETERS.items():
+            parameters = inspect.signature(getattr(bytefield, name)).parameters
+            self.assertEqual(list(parameters), wanted, name)
+
     def test_nothing_is_imported(self):
         for name, tree in trees():
             for node in ast.walk(tree):
@@ -41,6 +50,8 @@ class Form(unittest.TestCase):
         for name, tree in trees():
             for node in ast.walk(tree):
                 self.assertNotIsInstance(node, (ast.Global, ast.Nonlocal), name)
+                if isinstance(node, ast.arguments):
+                    self.assertEqual(node.defaults, [], name)
             for node in tree.body:
                 if isinstance(node, ast.Assign):
                     self.assertNotIsInstance(node.value, (ast.List, ast.Dict, ast.Set, ast.Call), name)

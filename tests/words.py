@@ -1,0 +1,60 @@
+"""What the tests share: the document's words written out once more, and the checks that hold for every answer.
+
+Nothing here draws on the package, so that what is wrong there can't hide itself.
+"""
+
+import contextlib
+import functools
+import io
+
+BYTES = range(256)
+NOT_BYTES = (-2147483648, -2147483647, -256, -255, -2, -1, 256, 257, 285, 511, 512, 65536, 2147483646, 2147483647)
+REFUSED = [-2]
+
+
+def doubled(a, times):
+    for step in range(times):
+        a = a * 2
+        if a > 255:
+            a = a ^ 0x11D
+    return a
+
+
+@functools.lru_cache(maxsize=None)
+def product(a, b):
+    total = 0
+    for k in range(8):
+        if (b // 2 ** k) % 2 == 1:
+            total = total ^ doubled(a, k)
+    return total
+
+
+class AnswerTests:
+    """Mixed into a TestCase with `call` and `samples`: pairs of what is handed in and the answer that is wanted."""
+
+    def test_a_list_of_one_whole_number(self):
+        for given, wanted in self.samples:
+            answer = self.call(*given)
+            self.assertIs(type(answer), list, given)
+            self.assertEqual(len(answer), 1, given)
+            self.assertIs(type(answer[0]), int, given)
+            self.assertEqual(answer, wanted, given)
+
+    def test_asked_again_it_answers_the_same(self):
+        for given, wanted in list(self.samples) + list(reversed(self.samples)):
+            self.assertEqual(self.call(*given), wanted, given)
+            self.assertEqual(self.call(*given), wanted, given)
+
+    def test_a_changed_answer_alters_no_later_one(self):
+        for given, wanted in self.samples:
+            earlier = self.call(*given)
+            earlier[0] = 99
+            earlier.append(100)
+            self.assertEqual(self.call(*given), wanted, given)
+
+    def test_nothing_is_printed(self):
+        printed = io.StringIO()
+        with contextlib.redirect_stdout(printed), contextlib.redirect_stderr(printed):
+            for given, wanted in self.samples:
+                self.call(*given)
+        self.assertEqual(printed.getvalue(), "")
