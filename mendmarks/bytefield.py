@@ -1,4 +1,4 @@
-"""The field of bytes: how bytes are added, doubled, multiplied and divided."""
+"""The field of bytes: how bytes are added, doubled, multiplied, divided and raised to a power."""
 
 REFUSED = -2
 LARGEST_BYTE = 255
@@ -57,3 +57,10 @@ def div(a, b):
     if not is_byte(a) or not is_byte(b) or b == 0:
         return [REFUSED]
     return [product(a, raised(b, INVERTING_POWER))]
+
+
+def power(a, e):
+    """a to the power e as a list of one number, or [-2] where a is not a byte or e is below 0."""
+    if not is_byte(a) or e < 0:
+        return [REFUSED]
+    return [raised(a, e)]

@@ -29,6 +29,14 @@ def product(a, b):
     return total
 
 
+def powers(a, largest):
+    """a to the power 0, 1 and on, up to the largest exponent."""
+    found = [1]
+    for e in range(largest):
+        found.append(product(a, found[e]))
+    return found
+
+
 class AnswerTests:
     """Mixed into a TestCase with `call` and `samples`: pairs of what is handed in and the answer that is wanted."""
 
