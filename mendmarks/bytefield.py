@@ -1,4 +1,4 @@
-"""The field of bytes: how bytes are added, doubled, multiplied, divided and raised to a power."""
+"""The field of bytes: how bytes are added, doubled, multiplied, divided and raised to a power, and a row's value."""
 
 REFUSED = -2
 LARGEST_BYTE = 255
@@ -45,6 +45,14 @@ def raised(byte, exponent):
     return total
 
 
+def value_at(x, row):
+    """A row's value at a number that is known to be a byte."""
+    total = 0
+    for byte in row:
+        total = product(total, x) ^ byte
+    return total
+
+
 def mul(a, b):
     """The product of a and b as a list of one number, or [-2] where one of them is not a byte."""
     if not is_byte(a) or not is_byte(b):
@@ -64,3 +72,10 @@ def power(a, e):
     if not is_byte(a) or e < 0:
         return [REFUSED]
     return [raised(a, e)]
+
+
+def value(x, row):
+    """The row's value at x as a list of one number, or [-2] where x is not a byte."""
+    if not is_byte(x):
+        return [REFUSED]
+    return [value_at(x, row)]

@@ -9,7 +9,12 @@ import unittest
 from mendmarks import bytefield
 
 PACKAGE = pathlib.Path(__file__).resolve().parent.parent / "mendmarks"
-PARAMETERS = {"mul": ["a", "b"], "div": ["a", "b"], "power": ["a", "e"]}
+PARAMETERS = {
+    "mul": ["a", "b"],
+    "div": ["a", "b"],
+    "power": ["a", "e"],
+    "value": ["x", "row"],
+}
 OUTSIDE_NAMES = ("print", "open", "input", "eval", "exec", "compile", "globals", "sys", "os")
 
 

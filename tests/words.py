@@ -4,6 +4,7 @@ Nothing here draws on the package, so that what is wrong there can't hide itself
 """
 
 import contextlib
+import copy
 import functools
 import io
 
@@ -37,6 +38,36 @@ def powers(a, largest):
     return found
 
 
+def value(x, row):
+    """(...((c0) x + c1) x + ...) x + c(n-1), read from the inside out."""
+    if row == []:
+        return 0
+    total = row[0]
+    for byte in row[1:]:
+        total = product(total, x) ^ byte
+    return total
+
+
+def made_row(length, start):
+    """A row of mixed bytes, the same each time it is asked for."""
+    row = []
+    state = start
+    for place in range(length):
+        state = (state * 1103515245 + 12345) % 2147483648
+        row.append(state // 65536 % 256)
+    return row
+
+
+class GuardedRow(list):
+    """A row that fails the test when it is changed, even if it is changed back."""
+
+    def refuse(self, *given, **named):
+        raise AssertionError("what is handed in was changed")
+
+    append = extend = insert = remove = pop = clear = sort = reverse = refuse
+    __setitem__ = __delitem__ = __iadd__ = __imul__ = refuse
+
+
 class AnswerTests:
     """Mixed into a TestCase with `call` and `samples`: pairs of what is handed in and the answer that is wanted."""
 
@@ -59,6 +90,22 @@ class AnswerTests:
             earlier[0] = 99
             earlier.append(100)
             self.assertEqual(self.call(*given), wanted, given)
+
+    def test_what_is_handed_in_stays(self):
+        for given, wanted in self.samples:
+            ahead = copy.deepcopy(given)
+            answer = self.call(*given)
+            self.assertEqual(given, ahead)
+            for part in given:
+                self.assertIsNot(answer, part)
+            answer[0] = 99
+            answer.append(100)
+            self.assertEqual(given, ahead)
+
+    def test_what_is_handed_in_is_not_changed_for_a_while(self):
+        for given, wanted in self.samples:
+            guarded = [GuardedRow(part) if isinstance(part, list) else part for part in given]
+            self.assertEqual(self.call(*guarded), wanted, given)
 
     def test_nothing_is_printed(self):
         printed = io.StringIO()
