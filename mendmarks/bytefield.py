@@ -1,4 +1,4 @@
-"""The field of bytes: how bytes are added, doubled, multiplied, divided and raised to a power, and a row's value."""
+"""The field of bytes, and rows of bytes over it: their values, and which of them are right."""
 
 REFUSED = -2
 LARGEST_BYTE = 255
@@ -53,6 +53,16 @@ def value_at(x, row):
     return total
 
 
+def is_right(r, row):
+    place = 1
+    for count in range(r):
+        if value_at(place, row) != 0:
+            return False
+        # The places are the powers of 2, so each is twice the one ahead of it.
+        place = twice(place)
+    return True
+
+
 def mul(a, b):
     """The product of a and b as a list of one number, or [-2] where one of them is not a byte."""
     if not is_byte(a) or not is_byte(b):
@@ -79,3 +89,8 @@ def value(x, row):
     if not is_byte(x):
         return [REFUSED]
     return [value_at(x, row)]
+
+
+def right(r, row):
+    """A list of one number: 1 if the row's value is 0 at 2 to the power i for every i from 0 to r - 1, else 0."""
+    return [1 if is_right(r, row) else 0]

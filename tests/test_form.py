@@ -14,6 +14,7 @@ PARAMETERS = {
     "div": ["a", "b"],
     "power": ["a", "e"],
     "value": ["x", "row"],
+    "right": ["r", "row"],
 }
 OUTSIDE_NAMES = ("print", "open", "input", "eval", "exec", "compile", "globals", "sys", "os")
 

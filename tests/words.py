@@ -48,6 +48,30 @@ def value(x, row):
     return total
 
 
+POWERS_OF_TWO = powers(2, 255)
+
+
+def right(r, row):
+    for i in range(r):
+        if value(POWERS_OF_TWO[i], row) != 0:
+            return 0
+    return 1
+
+
+def times_factor(row, root):
+    """The row multiplied by x + root, which is 0 at root; it is one byte longer."""
+    moved = row + [0]
+    taken = [0] + [product(byte, root) for byte in row]
+    return [first ^ second for first, second in zip(moved, taken)]
+
+
+def row_with_roots(row, exponents):
+    """The row multiplied so that its value is 0 at 2 to the power of each exponent."""
+    for i in exponents:
+        row = times_factor(row, POWERS_OF_TWO[i])
+    return row
+
+
 def made_row(length, start):
     """A row of mixed bytes, the same each time it is asked for."""
     row = []
